@@ -1,6 +1,7 @@
 package tests
 
 import (
+	"fmt"
 	"math"
 	"strings"
 )
@@ -45,4 +46,18 @@ func sampleTexts() []string {
 		list = append(list, mixedBytes(n))
 	}
 	return append(list, mixedBytes(1000))
+}
+
+// shown returns values as Go writes them, each one shortened, so that the message of a failed
+// test has no raw bytes in it and fits on a screen.
+func shown(values ...any) string {
+	list := []string{}
+	for _, v := range values {
+		s := fmt.Sprintf("%#v", v)
+		if len(s) > 200 {
+			s = strings.ToValidUTF8(s[:200], "") + ".."
+		}
+		list = append(list, s)
+	}
+	return strings.Join(list, ", ")
 }
