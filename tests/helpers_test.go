@@ -3,6 +3,7 @@ package tests
 import (
 	"fmt"
 	"math"
+	"slices"
 	"strings"
 )
 
@@ -60,4 +61,12 @@ func shown(values ...any) string {
 		list = append(list, s)
 	}
 	return strings.Join(list, ", ")
+}
+
+// guarded returns a slice with the given elements and spare ones in the capacity behind them, and
+// a function that tells whether all of these are as they were.
+func guarded[T comparable](list []T, spare ...T) ([]T, func() bool) {
+	whole := append(slices.Clone(list), spare...)
+	was := slices.Clone(whole)
+	return whole[:len(list)], func() bool { return slices.Equal(whole, was) }
 }

@@ -295,14 +295,6 @@ func TestTakeFrames(t *testing.T) {
 	}
 }
 
-// guarded returns a slice with the given numbers and spare capacity, and a function that tells
-// whether the numbers and those in the spare capacity are as they were.
-func guarded(list []int) ([]int, func() bool) {
-	whole := append(slices.Clone(list), 71, 72, 73, 74)
-	was := slices.Clone(whole)
-	return whole[:len(list)], func() bool { return slices.Equal(whole, was) }
-}
-
 // packersOf returns what each function that returns a packer does for p.
 func packersOf(p impl.Packer) []impl.Packer {
 	packed, _ := impl.PackPacket(p, impl.Packet{Apid: 1, Data: "az"})
@@ -320,7 +312,7 @@ func TestPackersShareNoMemory(t *testing.T) {
 		{Channel: 3, Rest: mixedBytes(30), Starts: []int{5}}, {Rest: mixedBytes(30), Starts: []int{5, 5}},
 	} {
 		p := x
-		starts, asBefore := guarded(x.Starts)
+		starts, asBefore := guarded(x.Starts, 71, 72, 73, 74)
 		p.Starts = starts
 		results := packersOf(p)
 		again := packersOf(p)

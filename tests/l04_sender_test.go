@@ -249,14 +249,6 @@ func TestCommandBlocks(t *testing.T) {
 	}
 }
 
-// guardedSent returns a slice with the given commands and spare capacity, and a function that
-// tells whether the commands and those in the spare capacity are as they were.
-func guardedSent(list []impl.Sent) ([]impl.Sent, func() bool) {
-	whole := append(slices.Clone(list), impl.Sent{Seq: 71, Data: "x"}, impl.Sent{Seq: 72, Data: "y"}, impl.Sent{Seq: 73})
-	was := slices.Clone(whole)
-	return whole[:len(list)], func() bool { return slices.Equal(whole, was) }
-}
-
 // sendersOf returns what each function that returns a sender does for s.
 func sendersOf(s impl.Sender) []impl.Sender {
 	offered, _ := impl.OfferCommand(s, "az")
@@ -274,7 +266,7 @@ func TestSendersShareNoMemory(t *testing.T) {
 		{}, senderFrom(3, 21), senderOf(4, 1, 3), senderOf(4, 3, 2, 1), {Next: 256, Window: 2, Waiting: sentFrom(254, 2)},
 	} {
 		s := x
-		waiting, asBefore := guardedSent(x.Waiting)
+		waiting, asBefore := guarded(x.Waiting, impl.Sent{Seq: 71, Data: "x"}, impl.Sent{Seq: 72, Data: "y"}, impl.Sent{Seq: 73})
 		s.Waiting = waiting
 		results := sendersOf(s)
 		again := sendersOf(s)
